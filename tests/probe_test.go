@@ -1,0 +1,135 @@
+package tests
+
+import (
+	"testing"
+
+	"loop.example/g01125/impl"
+)
+
+// probe hands out arguments with filled spare capacity and remembers what they were.
+type probe struct {
+	lists   [][]int
+	befores [][]int
+	outers  [][][]int
+	insides [][][]int
+}
+
+// list returns the values in a slice behind which there is spare capacity that nothing may touch.
+func (p *probe) list(values []int) []int {
+	whole := append(make([]int, 0, len(values)+3), values...)
+	whole = append(whole, 1, 0, 1)
+	p.lists = append(p.lists, whole)
+	p.befores = append(p.befores, append([]int{}, whole...))
+	return whole[:len(values)]
+}
+
+// board returns the board with Cells of the kind that list returns.
+func (p *probe) board(b impl.Board) impl.Board {
+	b.Cells = p.list(b.Cells)
+	return b
+}
+
+// nested does for a list of lists what list does for one.
+func (p *probe) nested(values [][]int) [][]int {
+	whole := make([][]int, 0, len(values)+2)
+	for _, v := range values {
+		whole = append(whole, p.list(v))
+	}
+	whole = append(whole, p.list([]int{0, 0}), p.list([]int{1, 1}))
+	p.outers = append(p.outers, whole)
+	p.insides = append(p.insides, append([][]int{}, whole...))
+	return whole[:len(values)]
+}
+
+// changed reports whether an argument, or the capacity behind it, is not what it was.
+func (p *probe) changed() bool {
+	for i := range p.lists {
+		if !sameList(p.lists[i], p.befores[i]) {
+			return true
+		}
+	}
+	for i, outer := range p.outers {
+		for j, was := range p.insides[i] {
+			now := outer[j]
+			if len(now) != len(was) || len(was) > 0 && &now[0] != &was[0] {
+				return true
+			}
+		}
+	}
+	return false
+}
+
+// slicesOf lists the slices of numbers that a result consists of.
+func slicesOf(results []any) [][]int {
+	var list [][]int
+	for _, v := range results {
+		switch x := v.(type) {
+		case impl.Board:
+			list = append(list, x.Cells)
+		case []int:
+			list = append(list, x)
+		case [][]int:
+			list = append(list, x...)
+		}
+	}
+	return list
+}
+
+func copyLists(lists [][]int) [][]int {
+	var list [][]int
+	for _, l := range lists {
+		list = append(list, append([]int{}, l...))
+	}
+	return list
+}
+
+// scribble overwrites a slice and all that its capacity reaches.
+func scribble(l []int) {
+	l = l[:cap(l)]
+	for i := range l {
+		l[i] = -99
+	}
+}
+
+// checkMemory makes a call and checks that it changes no argument, and that what it returns is memory of its own:
+// overwriting one slice of a result changes no argument, no other slice of it, and no later call.
+func checkMemory(t *testing.T, what string, call func(p *probe) []any) {
+	t.Helper()
+	p := &probe{}
+	results := call(p)
+	if p.changed() {
+		t.Errorf("%s: an argument was modified", what)
+	}
+	got := slicesOf(results)
+	first := copyLists(got)
+	for i := range got {
+		scribble(got[i])
+		for j := i + 1; j < len(got); j++ {
+			if !sameList(got[j], first[j]) {
+				t.Errorf("%s: the slices %d and %d of the result share memory", what, i, j)
+			}
+		}
+	}
+	for _, v := range results {
+		if lists, nested := v.([][]int); nested {
+			clear(lists[:cap(lists)])
+		}
+	}
+	if p.changed() {
+		t.Errorf("%s: the result shares memory with an argument", what)
+	}
+	if again := slicesOf(call(&probe{})); !sameLists(again, first) {
+		t.Errorf("%s: %v when called again, %v before", what, again, first)
+	}
+}
+
+// calm makes a call and reports a panic as a failure of the test.
+func calm(t *testing.T, what string, call func()) {
+	t.Helper()
+	defer func() {
+		if r := recover(); r != nil {
+			t.Errorf("%s: panic: %v", what, r)
+		}
+	}()
+	call()
+}
