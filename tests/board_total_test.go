@@ -11,12 +11,6 @@ import (
 
 // Promise 11 for chapter 1: no call panics, none modifies an argument, and failing calls return zeros.
 
-// boardCall is a call of one function of one board, with the other arguments chosen.
-type boardCall struct {
-	name string
-	call func(p *probe, b impl.Board) []any
-}
-
 // boardCalls holds, for each function that takes a board, calls that need nothing but a right board of 2 rows and 2 columns.
 func boardCalls() []boardCall {
 	other := of("10/01")
@@ -50,19 +44,7 @@ func boardCalls() []boardCall {
 }
 
 func TestTotalWrongBoards(t *testing.T) {
-	for _, f := range boardCalls() {
-		if results := f.call(&probe{}, of("11/01")); results[len(results)-1] != true {
-			t.Errorf("%s: fails for a right board", f.name)
-		}
-		for _, b := range wrongBoards() {
-			p := &probe{}
-			what := fmt.Sprint(f.name, " ", b)
-			calm(t, what, func() { fails(t, what, f.call(p, b)...) })
-			if p.changed() {
-				t.Errorf("%s: an argument was modified", what)
-			}
-		}
-	}
+	checkWrongBoards(t, boardCalls())
 	for _, b := range wrongBoards() {
 		p := &probe{}
 		calm(t, "IsBoard", func() {
@@ -87,14 +69,7 @@ func TestTotalTwoWrongBoards(t *testing.T) {
 }
 
 func TestTotalMemoryOfBoardCalls(t *testing.T) {
-	for _, f := range boardCalls() {
-		for _, b := range boardsOfSize(2, 2) {
-			checkMemory(t, fmt.Sprint(f.name, " ", b), func(p *probe) []any { return f.call(p, b) })
-		}
-		for _, b := range largeBoards() {
-			checkMemory(t, fmt.Sprint(f.name, " ", b), func(p *probe) []any { return f.call(p, b) })
-		}
-	}
+	checkCallMemory(t, boardCalls())
 }
 
 func TestTotalMemoryOfOthers(t *testing.T) {

@@ -1,6 +1,7 @@
 package tests
 
 import (
+	"fmt"
 	"testing"
 
 	"loop.example/g01125/impl"
@@ -132,4 +133,39 @@ func calm(t *testing.T, what string, call func()) {
 		}
 	}()
 	call()
+}
+
+// boardCall is a call of one function of one board, with the other arguments chosen.
+type boardCall struct {
+	name string
+	call func(p *probe, b impl.Board) []any
+}
+
+// checkWrongBoards checks that each call succeeds for the board 11/01, and that for values that are no boards
+// it returns zeros and modifies nothing.
+func checkWrongBoards(t *testing.T, calls []boardCall) {
+	t.Helper()
+	for _, f := range calls {
+		if results := f.call(&probe{}, of("11/01")); results[len(results)-1] != true {
+			t.Errorf("%s: fails for a right board", f.name)
+		}
+		for _, b := range wrongBoards() {
+			p := &probe{}
+			what := fmt.Sprint(f.name, " ", b)
+			calm(t, what, func() { fails(t, what, f.call(p, b)...) })
+			if p.changed() {
+				t.Errorf("%s: an argument was modified", what)
+			}
+		}
+	}
+}
+
+// checkCallMemory does checkMemory for each call and many boards, for some of which the call fails.
+func checkCallMemory(t *testing.T, calls []boardCall) {
+	t.Helper()
+	for _, f := range calls {
+		for _, b := range append(boardsOfSize(2, 2), largeBoards()...) {
+			checkMemory(t, fmt.Sprint(f.name, " ", b), func(p *probe) []any { return f.call(p, b) })
+		}
+	}
 }
