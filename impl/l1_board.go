@@ -241,11 +241,16 @@ func OrderRows(b Board, order []int) (Board, bool) {
 	if !ok || !hasEachOnce(order, g.rows) {
 		return Board{}, false
 	}
+	return g.inOrder(order).board(), true
+}
+
+// inOrder returns the grid whose row with the index i is that with the index order[i] of g; order has each row once.
+func (g grid) inOrder(order []int) grid {
 	h := g
 	for i, r := range order {
 		h.masks[i] = g.masks[r]
 	}
-	return h.board(), true
+	return h
 }
 
 // hasEachOnce reports whether list has each of 0..n-1 once, for n up to MaxSide.

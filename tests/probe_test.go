@@ -7,8 +7,9 @@ import (
 	"loop.example/g01125/impl"
 )
 
-// probe hands out arguments with filled spare capacity and remembers what they were.
+// probe hands out arguments with filled spare capacity, or with none if it is bare, and remembers what they were.
 type probe struct {
+	bare    bool
 	lists   [][]int
 	befores [][]int
 	outers  [][][]int
@@ -18,6 +19,9 @@ type probe struct {
 // list returns the values in a slice behind which there is spare capacity that nothing may touch.
 func (p *probe) list(values []int) []int {
 	whole := append(make([]int, 0, len(values)+3), values...)
+	if p.bare {
+		return whole[:len(values):len(values)]
+	}
 	whole = append(whole, 1, 0, 1)
 	p.lists = append(p.lists, whole)
 	p.befores = append(p.befores, append([]int{}, whole...))
@@ -35,6 +39,9 @@ func (p *probe) nested(values [][]int) [][]int {
 	whole := make([][]int, 0, len(values)+2)
 	for _, v := range values {
 		whole = append(whole, p.list(v))
+	}
+	if p.bare {
+		return whole[:len(values):len(values)]
 	}
 	whole = append(whole, p.list([]int{0, 0}), p.list([]int{1, 1}))
 	p.outers = append(p.outers, whole)
@@ -92,14 +99,18 @@ func scribble(l []int) {
 	}
 }
 
-// checkMemory makes a call and checks that it changes no argument, and that what it returns is memory of its own:
-// overwriting one slice of a result changes no argument, no other slice of it, and no later call.
+// checkMemory makes a call and checks that it changes no argument, that it returns the same whether or not there is
+// capacity behind its arguments, and that what it returns is memory of its own: overwriting one slice of a result
+// changes no argument, no other slice of it, and no later call.
 func checkMemory(t *testing.T, what string, call func(p *probe) []any) {
 	t.Helper()
 	p := &probe{}
 	results := call(p)
 	if p.changed() {
 		t.Errorf("%s: an argument was modified", what)
+	}
+	if bare := call(&probe{bare: true}); fmt.Sprint(bare...) != fmt.Sprint(results...) {
+		t.Errorf("%s: %v, but %v without spare capacity", what, results, bare)
 	}
 	got := slicesOf(results)
 	first := copyLists(got)
