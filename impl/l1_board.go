@@ -83,6 +83,28 @@ func (g grid) count() int {
 	return sum
 }
 
+// cellList returns the row and the column of each cell, ordered by rows and then by columns.
+func (g grid) cellList() [][]int {
+	cells := make([][]int, 0, g.count())
+	for r := 0; r < g.rows; r++ {
+		for c := 0; c < g.columns; c++ {
+			if g.at(r, c) {
+				cells = append(cells, []int{r, c})
+			}
+		}
+	}
+	return cells
+}
+
+// indices returns the list of 0, 1, .., count - 1.
+func indices(count int) []int {
+	list := make([]int, count)
+	for i := range list {
+		list[i] = i
+	}
+	return list
+}
+
 // isSide reports whether n is a number of rows or of columns that a board may have.
 func isSide(n int) bool {
 	return n >= 1 && n <= MaxSide
@@ -130,15 +152,7 @@ func CellsOf(b Board) ([][]int, bool) {
 	if !ok {
 		return nil, false
 	}
-	cells := make([][]int, 0, g.count())
-	for r := 0; r < g.rows; r++ {
-		for c := 0; c < g.columns; c++ {
-			if g.at(r, c) {
-				cells = append(cells, []int{r, c})
-			}
-		}
-	}
-	return cells, true
+	return g.cellList(), true
 }
 
 // FromCells returns the board with exactly the given cells, each a row and a column, in any order.

@@ -34,6 +34,11 @@ func (p *probe) board(b impl.Board) impl.Board {
 	return b
 }
 
+// lines returns lines with Rows and Columns of the kind that list returns.
+func (p *probe) lines(l impl.Lines) impl.Lines {
+	return impl.Lines{Rows: p.list(l.Rows), Columns: p.list(l.Columns)}
+}
+
 // nested does for a list of lists what list does for one.
 func (p *probe) nested(values [][]int) [][]int {
 	whole := make([][]int, 0, len(values)+2)
@@ -78,6 +83,12 @@ func slicesOf(results []any) [][]int {
 			list = append(list, x)
 		case [][]int:
 			list = append(list, x...)
+		case impl.Lines:
+			list = append(list, x.Rows, x.Columns)
+		case []impl.Lines:
+			for _, l := range x {
+				list = append(list, l.Rows, l.Columns)
+			}
 		}
 	}
 	return list
@@ -123,8 +134,11 @@ func checkMemory(t *testing.T, what string, call func(p *probe) []any) {
 		}
 	}
 	for _, v := range results {
-		if lists, nested := v.([][]int); nested {
-			clear(lists[:cap(lists)])
+		switch x := v.(type) {
+		case [][]int:
+			clear(x[:cap(x)])
+		case []impl.Lines:
+			clear(x[:cap(x)])
 		}
 	}
 	if p.changed() {
