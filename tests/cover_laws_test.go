@@ -11,11 +11,12 @@ import (
 
 // Promise 6: a largest placement has as many rooks as a least cover has lines, and is reached by longer ways.
 
-// lawBoards holds all boards of some sizes, and those on which the functions are tried one by one.
+// lawBoards holds all boards of up to 12 cells, and those on which the functions are tried one by one.
 func lawBoards() []impl.Board {
 	list := coverBoards()
-	for _, size := range [][2]int{{1, 4}, {1, 6}, {4, 1}, {6, 1}, {2, 4}, {4, 2}, {2, 5}, {5, 2}, {3, 4}, {4, 3}} {
+	for _, size := range [][2]int{{1, 4}, {1, 5}, {1, 6}, {2, 4}, {2, 5}, {2, 6}, {3, 4}} {
 		list = append(list, boardsOfSize(size[0], size[1])...)
+		list = append(list, boardsOfSize(size[1], size[0])...)
 	}
 	for _, l := range limitBoards() {
 		list = append(list, of(l.text))
