@@ -213,6 +213,8 @@ func isZero(v any) bool {
 		return len(x) == 0
 	case [][]int:
 		return len(x) == 0
+	case [][][]int:
+		return len(x) == 0
 	case impl.Lines:
 		return len(x.Rows) == 0 && len(x.Columns) == 0
 	case []impl.Lines:

@@ -2,6 +2,7 @@ package tests
 
 import (
 	"fmt"
+	"slices"
 	"testing"
 
 	"loop.example/g01125/impl"
@@ -83,6 +84,8 @@ func slicesOf(results []any) [][]int {
 			list = append(list, x)
 		case [][]int:
 			list = append(list, x...)
+		case [][][]int:
+			list = append(list, slices.Concat(x...)...)
 		case impl.Lines:
 			list = append(list, x.Rows, x.Columns)
 		case []impl.Lines:
@@ -108,6 +111,21 @@ func scribble(l []int) {
 	for i := range l {
 		l[i] = -99
 	}
+}
+
+// wipe clears one list of slices after the other, with all that its capacity reaches, and then all of them.
+// It reports whether that changed a list that was not cleared yet.
+func wipe(lists [][][]int) bool {
+	shared := false
+	for i, list := range lists {
+		clear(list[:cap(list)])
+		for _, other := range lists[i+1:] {
+			// No slice of such a result is empty.
+			shared = shared || slices.ContainsFunc(other, func(l []int) bool { return len(l) == 0 })
+		}
+	}
+	clear(lists[:cap(lists)])
+	return shared
 }
 
 // checkMemory makes a call and checks that it changes no argument, that it returns the same whether or not there is
@@ -137,6 +155,10 @@ func checkMemory(t *testing.T, what string, call func(p *probe) []any) {
 		switch x := v.(type) {
 		case [][]int:
 			clear(x[:cap(x)])
+		case [][][]int:
+			if wipe(x) {
+				t.Errorf("%s: lists of the result share memory", what)
+			}
 		case []impl.Lines:
 			clear(x[:cap(x)])
 		}
