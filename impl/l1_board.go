@@ -110,8 +110,8 @@ func isSide(n int) bool {
 	return n >= 1 && n <= MaxSide
 }
 
-// drawBoard returns the board of this size whose cells are the places where at is true.
-func drawBoard(rows int, columns int, at func(r int, c int) bool) Board {
+// drawGrid returns the grid of this size whose cells are the places where at is true.
+func drawGrid(rows int, columns int, at func(r int, c int) bool) grid {
 	g := grid{rows: rows, columns: columns}
 	for r := 0; r < rows; r++ {
 		for c := 0; c < columns; c++ {
@@ -120,7 +120,12 @@ func drawBoard(rows int, columns int, at func(r int, c int) bool) Board {
 			}
 		}
 	}
-	return g.board()
+	return g
+}
+
+// drawBoard does what drawGrid does and returns a Board.
+func drawBoard(rows int, columns int, at func(r int, c int) bool) Board {
+	return drawGrid(rows, columns, at).board()
 }
 
 // IsBoard reports whether b is a board.
