@@ -219,6 +219,10 @@ func isZero(v any) bool {
 		return len(x.Rows) == 0 && len(x.Columns) == 0
 	case []impl.Lines:
 		return len(x) == 0
+	case impl.Desk:
+		return isZero(x.Board) && len(x.Rooks) == 0
+	case []string:
+		return len(x) == 0
 	}
 	return reflect.ValueOf(v).IsZero()
 }

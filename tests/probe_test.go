@@ -40,6 +40,11 @@ func (p *probe) lines(l impl.Lines) impl.Lines {
 	return impl.Lines{Rows: p.list(l.Rows), Columns: p.list(l.Columns)}
 }
 
+// desk returns a desk with Cells and Rooks of the kind that list returns.
+func (p *probe) desk(d impl.Desk) impl.Desk {
+	return impl.Desk{Board: p.board(d.Board), Rooks: p.list(d.Rooks)}
+}
+
 // nested does for a list of lists what list does for one.
 func (p *probe) nested(values [][]int) [][]int {
 	whole := make([][]int, 0, len(values)+2)
@@ -92,6 +97,8 @@ func slicesOf(results []any) [][]int {
 			for _, l := range x {
 				list = append(list, l.Rows, l.Columns)
 			}
+		case impl.Desk:
+			list = append(list, x.Board.Cells, x.Rooks)
 		}
 	}
 	return list
@@ -138,8 +145,9 @@ func checkMemory(t *testing.T, what string, call func(p *probe) []any) {
 	if p.changed() {
 		t.Errorf("%s: an argument was modified", what)
 	}
-	if bare := call(&probe{bare: true}); fmt.Sprint(bare...) != fmt.Sprint(results...) {
-		t.Errorf("%s: %v, but %v without spare capacity", what, results, bare)
+	told := fmt.Sprint(results...)
+	if bare := fmt.Sprint(call(&probe{bare: true})...); bare != told {
+		t.Errorf("%s: %s, but %s without spare capacity", what, told, bare)
 	}
 	got := slicesOf(results)
 	first := copyLists(got)
@@ -161,13 +169,15 @@ func checkMemory(t *testing.T, what string, call func(p *probe) []any) {
 			}
 		case []impl.Lines:
 			clear(x[:cap(x)])
+		case []string:
+			clear(x[:cap(x)])
 		}
 	}
 	if p.changed() {
 		t.Errorf("%s: the result shares memory with an argument", what)
 	}
-	if again := slicesOf(call(&probe{})); !sameLists(again, first) {
-		t.Errorf("%s: %v when called again, %v before", what, again, first)
+	if again := fmt.Sprint(call(&probe{})...); again != told {
+		t.Errorf("%s: %s when called again, %s before", what, again, told)
 	}
 }
 
